@@ -16,3 +16,13 @@ func Schema(s api.Schema) api.Schema {
 	}
 	return c
 }
+
+// Rules returns a copy of a list of access rules.
+func Rules(l []api.Rule) []api.Rule {
+	c := slices.Clone(l)
+	for i, r := range l {
+		c[i].Attrs = slices.Clone(r.Attrs)
+		c[i].Rights = slices.Clone(r.Rights)
+	}
+	return c
+}

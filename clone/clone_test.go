@@ -40,3 +40,32 @@ func TestSchema(t *testing.T) {
 		t.Errorf("Schema of nothing = %v", c)
 	}
 }
+
+// sameRules reports whether two lists of rules are equal.
+func sameRules(a, b []api.Rule) bool {
+	return slices.EqualFunc(a, b, func(x, y api.Rule) bool {
+		return x.Allow == y.Allow && x.Subject == y.Subject && x.Target == y.Target && slices.Equal(x.Attrs, y.Attrs) && slices.Equal(x.Rights, y.Rights)
+	})
+}
+
+// list returns rules in which every field is set.
+func list() []api.Rule {
+	return []api.Rule{{Allow: true, Subject: "self", Target: "ou=x", Attrs: []string{"cn", "mail"}, Rights: []api.Right{api.ReadRight, api.WriteRight}}, {Subject: "*", Rights: []api.Right{api.AddRight}}}
+}
+
+// A copy is equal, and a change of the original does not change it.
+func TestRules(t *testing.T) {
+	l := list()
+	c := clone.Rules(l)
+	if !sameRules(c, list()) || !sameRules(l, list()) {
+		t.Fatalf("Rules = %v", c)
+	}
+	l[0].Attrs[0], l[0].Rights[1], l[1].Rights[0] = "spoilt", api.DeleteRight, api.DeleteRight
+	clear(l)
+	if !sameRules(c, list()) {
+		t.Errorf("changed: %v", c)
+	}
+	if c := clone.Rules(nil); len(c) != 0 {
+		t.Errorf("Rules of nothing = %v", c)
+	}
+}
